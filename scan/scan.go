@@ -57,13 +57,15 @@ func (t *Text) Pass(passes func(c byte) bool) string {
 	return t.all[from:t.at]
 }
 
-// PassTo the first mark, and that; gives up if there is none.
-func (t *Text) PassTo(mark string) {
+// PassTo the first mark, and that: what is ahead of it. Gives up if there is none.
+func (t *Text) PassTo(mark string) string {
 	i := strings.Index(t.all[t.at:], mark)
 	if i < 0 {
 		GiveUp()
 	}
+	passed := t.all[t.at : t.at+i]
 	t.at += i + len(mark)
+	return passed
 }
 
 // GiveUp what is being read: the innermost Try answers false.

@@ -53,8 +53,9 @@ func TestTryGivesUp(t *testing.T) {
 
 func TestTryDone(t *testing.T) {
 	in := New("a-->b")
-	if !in.Try(func() { in.PassTo("-->") }) {
-		t.Error("gave up")
+	ahead := ""
+	if !in.Try(func() { ahead = in.PassTo("-->") }) || ahead != "a" {
+		t.Errorf("gave up, or passed %q", ahead)
 	}
 	if s := in.Rest(); s != "b" {
 		t.Errorf("%q is left", s)

@@ -6,6 +6,7 @@ import (
 
 	"marginalia/api"
 	"marginalia/escape"
+	"marginalia/nodes"
 	"marginalia/scan"
 )
 
@@ -73,7 +74,7 @@ func checkToken(t api.Token) api.Errno {
 		if t.Text != "" || !isName(t.Name) {
 			return api.ErrForm
 		}
-		return checkAttrs(t.Attrs)
+		return nodes.CheckAttrs(t.Attrs, isName)
 	case api.TokenClose:
 		if t.Text != "" || len(t.Attrs) > 0 || !isName(t.Name) {
 			return api.ErrForm
@@ -81,20 +82,6 @@ func checkToken(t api.Token) api.Errno {
 		return api.OK
 	}
 	return api.ErrKind
-}
-
-func checkAttrs(l []api.Attr) api.Errno {
-	met := map[string]struct{}{}
-	for _, a := range l {
-		if !isName(a.Name) {
-			return api.ErrForm
-		}
-		if _, twice := met[a.Name]; twice {
-			return api.ErrTwice
-		}
-		met[a.Name] = struct{}{}
-	}
-	return api.OK
 }
 
 // isName: is s a NAME? Its letters are small ones throughout: else what is printed would not be read as it was.
