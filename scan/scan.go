@@ -68,6 +68,22 @@ func (t *Text) PassTo(mark string) string {
 	return passed
 }
 
+// Passed: is a mark here? It is passed.
+func (t *Text) Passed(mark string) bool {
+	here := t.Begins(mark)
+	if here {
+		t.at += len(mark)
+	}
+	return here
+}
+
+// Must pass a mark; gives up if it isn't here.
+func (t *Text) Must(mark string) {
+	if !t.Passed(mark) {
+		GiveUp()
+	}
+}
+
 // GiveUp what is being read: the innermost Try answers false.
 func GiveUp() { panic(noEnd{}) }
 

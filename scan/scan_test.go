@@ -33,11 +33,29 @@ func TestRest(t *testing.T) {
 	}
 }
 
+func TestPassed(t *testing.T) {
+	in := New("abc")
+	if in.Passed("b") || in.Passed("abcd") || !in.Passed("") || !in.Passed("ab") || in.Passed("ab") {
+		t.Error("ab alone is to be passed")
+	}
+	if s := in.Rest(); s != "c" || in.Passed("c") || !in.Passed("") {
+		t.Errorf("%q is left, up to the end", s)
+	}
+}
+
+func TestMust(t *testing.T) {
+	in := New("abc")
+	if !in.Try(func() { in.Must(""); in.Must("ab") }) || in.Rest() != "c" {
+		t.Error("ab is to be passed")
+	}
+}
+
 func TestTryGivesUp(t *testing.T) {
 	for name, read := range map[string]func(in *Text){
 		"Peek":   func(in *Text) { in.Rest(); in.Peek() },
 		"One":    func(in *Text) { in.Rest(); in.One() },
 		"PassTo": func(in *Text) { in.One(); in.PassTo("x") },
+		"Must":   func(in *Text) { in.One(); in.Must("cd") },
 		"GiveUp": func(in *Text) { in.One(); GiveUp() },
 	} {
 		in := New("abc")

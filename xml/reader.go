@@ -31,9 +31,9 @@ func (r *reader) misc() {
 // remark: is a comment here, or what stands between <? and ?>? It is passed.
 func (r *reader) remark() bool {
 	switch {
-	case r.passed("<!--"):
+	case r.in.Passed("<!--"):
 		r.passTo("-->")
-	case r.passed("<?"):
+	case r.in.Passed("<?"):
 		r.passTo("?>")
 	default:
 		return false
@@ -48,7 +48,7 @@ func (r *reader) element(depth int) api.Node {
 		stop.With(api.ErrMany)
 	}
 	n.Attrs = r.attrs()
-	if r.passed("/>") {
+	if r.in.Passed("/>") {
 		return n
 	}
 	r.must(">")
@@ -88,7 +88,7 @@ func (r *reader) attr() api.Attr {
 
 func (r *reader) value() string {
 	quote := `"`
-	if !r.passed(quote) {
+	if !r.in.Passed(quote) {
 		quote = "'"
 		r.must(quote)
 	}
@@ -105,7 +105,7 @@ func (r *reader) kids(depth int) []api.Node {
 		case r.in.Done():
 			stop.With(api.ErrForm)
 		case r.remark():
-		case r.passed("<![CDATA["):
+		case r.in.Passed("<![CDATA["):
 			l.Put(api.Node{Text: r.passTo("]]>")})
 		case r.in.Begins("<"):
 			l.Put(r.element(depth + 1))
@@ -136,18 +136,9 @@ func (r *reader) white() bool { return r.in.Pass(isWhite) != "" }
 
 // must: a mark is passed, which must stand here.
 func (r *reader) must(mark string) {
-	if !r.passed(mark) {
+	if !r.in.Passed(mark) {
 		stop.With(api.ErrForm)
 	}
-}
-
-// passed: is a mark here? It is passed.
-func (r *reader) passed(mark string) bool {
-	here := r.in.Begins(mark)
-	if here {
-		r.in.PassTo(mark)
-	}
-	return here
 }
 
 // passTo the next mark, and that: what is ahead of it. There must be one.
